@@ -20,7 +20,7 @@ func Split(whole uint64, weights ...uint64) ([]uint64, api.Errno) {
 		return nil, why
 	}
 	parts, rests, left := roundedDown(whole, weights, all)
-	// All fractions together are left, and each is below 1: fewer units are left than there are fractions above 0.
+	// All fractions together are what is left, and each is below 1: so no unit goes to a fraction of 0.
 	for _, i := range byLargest(rests)[:left] {
 		parts[i]++
 	}
