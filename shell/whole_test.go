@@ -408,3 +408,26 @@ func TestErrorsChangeNothing(t *testing.T) {
 		}
 	}
 }
+
+// P1: as many holds, locks, scenarios and leaves as there may be, and one more of each.
+func TestFull(t *testing.T) {
+	r := opened(t, 4096, cats()["four"])
+	for i, c := range r.w.cells {
+		r.do("hold main "+r.w.show(c), "lock ann main "+r.w.show(c), "hold main "+r.w.show(c))
+		if i > 40 {
+			r.do("release main "+r.w.show(r.w.cells[i-40]), "unlock ann main "+r.w.show(r.w.cells[i-40]), "lock bob main "+r.w.show(c))
+		}
+	}
+	r.probe()
+	for n := range 9 {
+		r.do("branch main s" + num(int64(n)))
+	}
+	r.do("scens", "drop s3", "branch s1 s9", "branch s1 s10", "drop main", "scens")
+	r = opened(t, 4096, cats()["four"])
+	for n, leaf := range r.w.leaves {
+		r.do("set ann main " + r.w.show(leaf) + " " + num(int64(n+1)))
+	}
+	r.do("set ann main m/set/year/a/all 500", "set ann main "+r.w.show(r.w.leaves[0])+" 0", "set ann main "+r.w.show(r.w.leaves[11])+" 5", "set ann main "+r.w.show(r.w.leaves[0])+" 1")
+	r.probe()
+	kept(t, r.s, "set ann main "+r.w.show(r.w.leaves[0])+" 1", "error 14")
+}
